@@ -90,8 +90,8 @@ func copyOf(v reflect.Value, filling int64) reflect.Value {
 		for i := range list.Len() {
 			if i < v.Len() {
 				list.Index(i).Set(copyOf(v.Index(i), filling))
-			} else if list.Index(i).Kind() == reflect.Int {
-				list.Index(i).SetInt(filling)
+			} else {
+				fill(list.Index(i), filling)
 			}
 		}
 		return list.Slice(0, v.Len())
@@ -103,6 +103,18 @@ func copyOf(v reflect.Value, filling int64) reflect.Value {
 		return s
 	}
 	return v
+}
+
+// fill sets a number, or all numbers of a struct.
+func fill(v reflect.Value, filling int64) {
+	switch v.Kind() {
+	case reflect.Int:
+		v.SetInt(filling)
+	case reflect.Struct:
+		for i := range v.NumField() {
+			fill(v.Field(i), filling)
+		}
+	}
 }
 
 // areUntouched reports whether arguments and the room behind them are as copiesOf made them.
@@ -212,10 +224,13 @@ func regionsOf(v reflect.Value, regions []region) []region {
 
 type pair struct{ A, B []int }
 
+type point struct{ X, Y int }
+
 func panics(list []int) (int, bool)        { return list[3], true }
 func writes(list []int) bool               { return len(list) > 0 && clearFirst(list) }
 func writesBehind(list []int) bool         { return len(append(list, 5)) > 0 }
 func readsBehind(list []int) (int, bool)   { return sumOf(list[:cap(list)]), true }
+func readsPointBehind(list []point) int    { return list[:cap(list)][len(list)].Y }
 func handsBack(list []int) ([]int, bool)   { return list, true }
 func handsEnd(list []int) ([]int, bool)    { return list[len(list):], true }
 func failsWithMore(list []int) (int, bool) { return 1, false }
@@ -243,13 +258,17 @@ func TestCheckSafetyFindsBreaches(t *testing.T) {
 	for want, functions := range map[string][]any{
 		"panics":                   {panics},
 		"modifies an argument":     {writes, writesBehind},
-		"has two answers":          {readsBehind},
+		"has two answers":          {readsBehind, readsPointBehind},
 		"shares memory":            {handsBack, handsEnd, sharesInside},
 		"an answer that is not ze": {failsWithMore, failsWithList},
 		"":                         {slices.Clone[[]int], sumOf},
 	} {
 		for _, f := range functions {
-			got := complaintOf(reflect.ValueOf(f), []any{[]int{1, 2, 3}})
+			argument := any([]int{1, 2, 3})
+			if reflect.TypeOf(f).In(0) == reflect.TypeFor[[]point]() {
+				argument = []point{{1, 2}, {3, 4}}
+			}
+			got := complaintOf(reflect.ValueOf(f), []any{argument})
 			if !strings.Contains(got, want) || want == "" && got != "" {
 				t.Errorf("%v: complaint %q, want %q", reflect.TypeOf(f), got, want)
 			}
